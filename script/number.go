@@ -1,0 +1,66 @@
+package script
+
+import (
+	"math"
+
+	"embrasure/api"
+	"embrasure/word"
+)
+
+// digits is how many a number has at most.
+const digits = 4
+
+// number is the one that a word says; false: it says none. What the machine's words are written with beside digits is no number of a line.
+func number(s string) (int, bool) {
+	if len(s) > digits {
+		return 0, false
+	}
+	for _, r := range s {
+		if r < '0' || r > '9' {
+			return 0, false
+		}
+	}
+	n, e := word.Parse(s)
+	return int(n), e == api.OK
+}
+
+// signN is a number of any size. The other signs are E and F, of an environment and of frames.
+const signN = 'N'
+
+// signs are those of the numbers behind a first word; false: there is no line of numbers with it.
+func signs(first string) (string, bool) {
+	switch first {
+	case "load":
+		return "FNN", true
+	case "step", "deliver":
+		return "N", true
+	case "run":
+		return "NN", true
+	case "regs", "maps", "frames":
+		return "E", true
+	case "revoke":
+		return "EFN", true
+	case "sector":
+		return "ENN", true
+	case "time", "envs":
+		return "", true
+	}
+	return "", false
+}
+
+// numbers are those that words say behind a first word; false: there is no such line, or the words do not fit.
+func numbers(first string, words []string) ([]int, bool) {
+	asked, ok := signs(first)
+	if !ok || len(words) != len(asked) {
+		return nil, false
+	}
+	var l []int
+	for i, sign := range asked {
+		n, ok := number(words[i])
+		if !ok || sign != signN && n > math.MaxUint8 {
+			return nil, false
+		}
+		l = append(l, n)
+	}
+	return l, true
+}
