@@ -24,8 +24,25 @@ func number(s string) (int, bool) {
 	return int(n), e == api.OK
 }
 
-// signN is a number of any size. The other signs are E and F, of an environment and of frames.
-const signN = 'N'
+// The signs of numbers that have no limit of their own, and of steps. The other ones, E and F, are of an environment and of frames.
+const (
+	signN     = 'N'
+	signSteps = 'S'
+)
+
+// longest is how many steps a line does at most.
+const longest = 50
+
+// fits tells whether a number is within the limit of its sign: what would pass it is refused, and nothing less is done in its place.
+func fits(n int, sign rune) bool {
+	switch sign {
+	case signN:
+		return true
+	case signSteps:
+		return n <= longest
+	}
+	return n <= math.MaxUint8
+}
 
 // signs are those of the numbers behind a first word; false: there is no line of numbers with it.
 func signs(first string) (string, bool) {
@@ -35,7 +52,7 @@ func signs(first string) (string, bool) {
 	case "step", "deliver":
 		return "N", true
 	case "run":
-		return "NN", true
+		return "NS", true
 	case "regs", "maps", "frames":
 		return "E", true
 	case "revoke":
@@ -57,7 +74,7 @@ func numbers(first string, words []string) ([]int, bool) {
 	var l []int
 	for i, sign := range asked {
 		n, ok := number(words[i])
-		if !ok || sign != signN && n > math.MaxUint8 {
+		if !ok || !fits(n, sign) {
 			return nil, false
 		}
 		l = append(l, n)

@@ -173,12 +173,12 @@ func stepLine(chance func(int) int) played {
 	core, steps := chance(5)/2, 1
 	line := fmt.Sprintf("step %d", core)
 	if chance(2) == 0 {
-		steps = []int{0, 1, 2, 5, 20, 50, 51, 9999}[chance(8)]
+		steps = []int{0, 1, 2, 5, 20, 49, 50}[chance(7)]
 		line = fmt.Sprintf("run %d %d", core, steps)
 	}
 	return played{line, func(w *world) string {
 		var words []string
-		for n := 0; n < steps && n < 50; n++ {
+		for range steps {
 			if s, e := w.machine.Step(core); e == api.OK {
 				words = append(words, fmt.Sprint(int(s.Kind)))
 			}
@@ -248,7 +248,7 @@ func toldLine(chance func(int) int) played {
 // wrongLine is one that there is not.
 func wrongLine(chance func(int) int) played {
 	all := []string{
-		"sys", "sys fork", "sys none 0", "fork 0", "text", "text a b", "load 256 0 0", "load 1 0", "load 01 0 0", "step", "step 0 0", "step -1", "run 0", "run 0 00", "regs", "regs 256", "maps 256", "frames 1000", "regs x1",
+		"sys", "sys fork", "sys none 0", "fork 0", "text", "text a b", "load 256 0 0", "load 1 0", "load 01 0 0", "step", "step 0 0", "step -1", "run 0", "run 0 00", "run 0 51", "run 1 52", "run 7 51", "run 0 9999", "regs", "regs 256", "maps 256", "frames 1000", "regs x1",
 		"revoke 256 0 0", "revoke 0 256 0", "revoke 0 0", "sector 256 0 1", "sector 0 0", "deliver", "deliver 10000", "time 0", "envs 0", "Time", "word", "ok", "\xff", "\t", "0", "tick",
 	}
 	return played{all[chance(len(all))], func(*world) string { return "word" }}

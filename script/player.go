@@ -12,9 +12,8 @@ import (
 )
 
 const (
-	sys     = "sys"  // the first word of a call's line
-	wrong   = "word" // what a line answers that there is not, or whose words do not fit
-	longest = 50     // steps that a line does at most
+	sys   = "sys"  // the first word of a call's line
+	wrong = "word" // what a line answers that there is not, or whose words do not fit
 )
 
 // player is what a script's lines are played on: a machine, a library, and the program that is written line by line.
@@ -92,6 +91,5 @@ func (p *player) load(frames, core, place int) string {
 
 // run lets a core go on.
 func (p *player) run(core, steps int) string {
-	cores := slices.Repeat([]int{core}, min(steps, longest))
-	return listed(p.machine.Run(cores...), kind)
+	return listed(p.machine.Run(slices.Repeat([]int{core}, steps)...), kind)
 }

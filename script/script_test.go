@@ -70,9 +70,10 @@ func TestP26_1Lines(t *testing.T) {
 	}
 }
 
-// TestP26_1LineWords: of each line too few words, and one more; words that are no number in each place; numbers of a byte in the places of E and F.
+// TestP26_1LineWords: of each line too few words, and one more; words that are no number in each place; numbers of a byte in the places of E and F, of up to 50 in that of steps (S).
 func TestP26_1LineWords(t *testing.T) {
-	for _, form := range []string{"load F N N", "step N", "run N N", "regs E", "maps E", "frames E", "revoke E F N", "sector E N N", "deliver N", "time", "envs"} {
+	most := map[string]int{"E": 255, "F": 255, "S": 50, "N": 9999}
+	for _, form := range []string{"load F N N", "step N", "run N S", "regs E", "maps E", "frames E", "revoke E F N", "sector E N N", "deliver N", "time", "envs"} {
 		words := strings.Fields(form)
 		full := append([]string{}, words...)
 		for n := range full {
@@ -102,8 +103,7 @@ func TestP26_1LineWords(t *testing.T) {
 				plays(t, line(bad)+" > word", "time > 0")
 			}
 			for good, value := range goodNumbers() {
-				fits := sign == "N" || value < 256
-				if got := Run(line(good)); fits == (got == "word\n") {
+				if got := Run(line(good)); (value <= most[sign]) == (got == "word\n") {
 					t.Errorf("%q: %q", line(good), got)
 				}
 			}
@@ -226,13 +226,26 @@ func TestP26_1LoadErrors(t *testing.T) {
 	plays(t, append(slices.Repeat([]string{"text nop > ok"}, 97), "load 16 0 0 > error 4 97", "load 16 0 0 > 0")...)
 }
 
-// TestP26_1Steps: of cores that there are and that there are not, of 0, 50 and more steps; each kind of step.
+// TestP26_1Steps: of cores that there are and that there are not, of 0 and up to 50 steps; each kind of step.
 func TestP26_1Steps(t *testing.T) {
 	fifty := "0" + strings.Repeat(" 0", 49)
-	plays(t, "step 0 > 0", "step 1 > 0", "step 2 > -", "step 9999 > -", "time > 2", "run 0 0 > -", "run 1 0 > -", "run 2 0 > -", "run 2 5 > -", "run 2 9999 > -", "run 9999 1 > -", "time > 2", "run 0 1 > 0", "run 1 3 > 0 0 0", "time > 6")
-	plays(t, "run 0 49 > "+fifty[2:], "run 0 50 > "+fifty, "run 0 51 > "+fifty, "run 1 9999 > "+fifty, "time > 199")
+	plays(t, "step 0 > 0", "step 1 > 0", "step 2 > -", "step 9999 > -", "time > 2", "run 0 0 > -", "run 1 0 > -", "run 2 0 > -", "run 2 5 > -", "run 2 50 > -", "run 9999 1 > -", "run 9999 50 > -", "time > 2", "run 0 1 > 0", "run 1 3 > 0 0 0", "time > 6")
+	plays(t, "run 0 49 > "+fifty[2:], "run 0 50 > "+fifty, "run 1 50 > "+fifty, "time > 149")
 	plays(t, "text li_r1_5 > ok", "text sys_15 > ok", "text ld_r1_r0_1000 > ok", "load 2 0 0 > 0", "run 0 4 > 1 2 3 0", "envs > 1", "frames 0 > -", "maps 0 > -", "regs 0 > "+noRegs)
 	plays(t, "text sys_11 > ok", "text jmp_0 > ok", "load 1 0 0 > 0", "text halt > ok", "load 1 0 4 > 1", "run 0 6 > 2 4 1 2 1 2", "frames 1 > -", "frames 0 > 0")
+}
+
+// TestE7Steps: a run of more steps than a line does is refused, at any core, and no step is done in its place; what stood ahead of it stays.
+func TestE7Steps(t *testing.T) {
+	for _, core := range []int{0, 1, 2, 7, 9999} {
+		for _, steps := range []int{51, 52, 99, 100, 199, 200, 201, 255, 256, 306, 9999} {
+			plays(t, fmt.Sprintf("run %d %d > word", core, steps), "time > 0")
+		}
+	}
+	plays(t,
+		"text li_r1_5 > ok", "text halt > ok", "run 0 51 > word", "load 1 0 0 > 0", "run 0 51 > word", "regs 0 > "+noRegs, "run 1 51 > word", "run 0 1 > 1", "run 0 9999 > word", "regs 0 > pc=0004 r0=0000 r1=0005"+noRegs[23:], "time > 1",
+		"run 0 50 > 4"+strings.Repeat(" 0", 49), "run 0 51 > word", "frames 0 > -", "time > 51",
+	)
 }
 
 // TestP26_1Regs: the registers of each that there is; of those that there are not, or not any more, all are 0.
